@@ -380,8 +380,9 @@ var demotions = []struct{ a, want int }{
 	{0x36b4000000000000, 2}, {0x36b4000000000001, 3}, {0x3690000000000001, tiny32}, {0x3690000000000000, 0},
 	{0x368fffffffffffff, 0}, {normal64, 0}, {subTop64, 0}, {tiny64, 0},
 	// Beyond the greatest: half a step becomes an infinity, less does not.
-	{0x47efffffe0000000, top32}, {0x47efffffefffffff, top32}, {0x47effffff0000000, inf32}, {0x47f0000000000000, inf32},
-	{top64, inf32}, {inf64, inf32},
+	{0x47efffffdfffffff, top32}, {0x47efffffe0000000, top32}, {0x47efffffe0000001, top32}, {0x47efffffefffffff, top32},
+	{0x47effffff0000000, inf32}, {0x47effffff0000001, inf32}, {0x47efffffffffffff, inf32}, {0x47f0000000000000, inf32},
+	{0x47f0000000000001, inf32}, {0x4800000000000000, inf32}, {0x7fe0000000000000, inf32}, {top64, inf32}, {inf64, inf32},
 }
 
 func TestDemote(t *testing.T) {
@@ -405,6 +406,27 @@ func TestDemotionsAreNearest(t *testing.T) {
 		}
 		sign := int(uint64(a) >> 63 << 31)
 		check(t, 182, a, rounded32(exact64(a), sign), api.OK)
+	}
+}
+
+// TestDemotionsBeyondTheGreatest asks for the infinity with the float's sign, whatever its size from half a step
+// beyond the greatest float of 32 bits on, and for the greatest itself below.
+func TestDemotionsBeyondTheGreatest(t *testing.T) {
+	const half = 0x47effffff0000000
+	// A greater bound would hand over to the language what it leaves open, and with most compilers not be seen.
+	if got := int(math.Float64bits(demoteEnd)); got != half {
+		t.Errorf("P6.1: demotions end at %#x, want %#x", got, half)
+	}
+	r := row(5)
+	for range 4000 {
+		beyond := half + r.word()&math.MaxInt%(inf64-half)
+		check(t, 182, beyond, inf32, api.OK)
+		check(t, 182, beyond|minus64, inf32|minus32, api.OK)
+		near := r.below(1 << 28)
+		check(t, 182, half+near, inf32, api.OK)
+		check(t, 182, (half+near)|minus64, inf32|minus32, api.OK)
+		check(t, 182, half-1-near, top32, api.OK)
+		check(t, 182, (half-1-near)|minus64, top32|minus32, api.OK)
 	}
 }
 
