@@ -241,20 +241,100 @@ func TestAllEndless(t *testing.T) {
 	}
 }
 
-// Where copies would be beyond all bounds, instructions come with their numbers all the same.
-func TestAllGreat(t *testing.T) {
-	long := slices.Repeat([]api.Instr{{Op: 14, A: 1, B: 2, Bits: 3, Type: 4, Labels: make([]int, 1<<20)}}, 300)
-	n := 0
-	for depth, i := range All(long) {
-		if depth != 0 || i.Op != 14 || i.A != 1 || i.B != 2 || i.Bits != 3 || i.Type != 4 {
-			t.Fatalf("P14.2: step %d: %d, Op %d", n, depth, i.Op)
+// checkNested asks All of blocks in one another, with a list in the innermost: each of the first ones comes with all that it
+// holds, however much a whole row would be.
+func checkNested(t *testing.T, deep int, inner []api.Instr, stop int) {
+	t.Helper()
+	at, n := blocks(2, deep, inner), 0
+	for depth, i := range All(at) {
+		if depth != n || !sameInstr(i, at[0]) {
+			t.Fatalf("P14.2: %d blocks in one another: step %d: %d, Op %d, %d in its Body", deep, n, depth, i.Op, len(i.Body))
 		}
-		if n++; n == 200 {
+		at = at[0].Body
+		if n++; n == stop {
 			break
 		}
 	}
-	if n != 200 {
+	if n != stop {
+		t.Errorf("P14.2: %d blocks in one another: %d steps; want %d", deep, n, stop)
+	}
+}
+
+func TestAllHeld(t *testing.T) {
+	for _, stop := range []int{1, 2, 64, 300} {
+		checkNested(t, 4900, many(1500), stop)
+	}
+	checkNested(t, 6193, nil, 6193)
+	checkNested(t, 8193, nil, 500)
+	checkNested(t, 8000, many(9000), 300)
+	checkNested(t, 40000, nil, 64)
+	checkNested(t, 1, many(1<<20), 1)
+	deep := elses(4900, many(1500))
+	for _, i := range All(deep) {
+		if !sameInstr(i, deep[0]) {
+			t.Errorf("P14.2: 4900 Elses in one another: %d in the first one's", len(i.Else))
+		}
+		break
+	}
+}
+
+// What stands ahead of something beyond all bounds comes with all that it holds; what stands behind it comes too.
+func TestAllAheadOfGreat(t *testing.T) {
+	loop := make([]api.Instr, 1)
+	loop[0] = api.Instr{Op: 3, Type: 64, Body: loop}
+	small := within(3, []api.Instr{{Op: 14, Labels: []int{1, 2}}})
+	want := steps(small, 0)
+	for what, great := range map[string][]api.Instr{
+		"a list in itself": loop,
+		"doubled blocks":   doubled(30),
+		"deep blocks":      blocks(2, 1<<17, nil),
+	} {
+		n := 0
+		for depth, i := range All(append(twin(small), great...)) {
+			if n < len(want) && (depth != want[n].depth || !sameInstr(i, want[n].instr)) || n >= len(want) && i.Op != great[0].Op && i.Op != 2 && i.Op != 1 {
+				t.Fatalf("P14.2: ahead of %s: step %d: %d, Op %d", what, n, depth, i.Op)
+			}
+			n++
+		}
+		if n != 8193 {
+			t.Errorf("P14.2: ahead of %s: %d steps", what, n)
+		}
+	}
+}
+
+// Where copies would be beyond all bounds, instructions come with their numbers all the same.
+func TestAllGreat(t *testing.T) {
+	loop := make([]api.Instr, 1)
+	loop[0] = api.Instr{Op: 3, A: 1, B: 2, Bits: 3, Type: 4, Labels: []int{5}, Body: loop}
+	for depth, i := range All(loop) {
+		if i.Op != 3 || i.A != 1 || i.B != 2 || i.Bits != 3 || i.Type != 4 {
+			t.Fatalf("P14.2: step %d: %v", depth, i.Op)
+		}
+	}
+	tables := slices.Repeat([]api.Instr{{Op: 14, A: 1, B: 2, Bits: 3, Type: 4, Labels: make([]int, 1<<20)}}, 100)
+	n := 0
+	for depth, i := range All(tables) {
+		if depth != 0 || !sameInstr(i, tables[n]) {
+			t.Fatalf("P14.2: step %d: %d, Op %d", n, depth, i.Op)
+		}
+		n++
+	}
+	if n != 100 {
 		t.Errorf("P14.2: %d steps", n)
+	}
+}
+
+// A range is given no more than it may be: from the first one on that is too much, instructions come without their lists.
+func TestGivenMost(t *testing.T) {
+	two := api.Instr{Op: 2, Type: 64, Body: many(1)}
+	table := api.Instr{Op: 14, Labels: []int{1, 2, 3}}
+	s := scale{left: 2*instrBytes + instrBytes + 3*labelBytes}
+	for k, c := range []struct{ i, want api.Instr }{
+		{two, two}, {table, table}, {two, api.Instr{Op: 2, Type: 64}}, {table, api.Instr{Op: 14}}, {api.Instr{Op: 1}, api.Instr{Op: 1}},
+	} {
+		if got := s.give(&c.i); !sameInstr(got, c.want) {
+			t.Errorf("R1: row %d: %v; want %v", k, got, c.want)
+		}
 	}
 }
 
