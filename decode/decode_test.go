@@ -8,6 +8,7 @@ import (
 	"unsafe"
 
 	"pelorus/api"
+	"pelorus/encode"
 )
 
 // part is a section's content with what it is read as.
@@ -210,6 +211,35 @@ func TestBack(t *testing.T) {
 		if e != api.OK || !same(back, m) || text(back) != s {
 			t.Fatalf("P15.2: %q: %v, %d; want %v", s, back, e, m)
 		}
+	}
+}
+
+// What layer 16 writes is read as it was; it is what the tests' own writer writes, too.
+func TestWritten(t *testing.T) {
+	m, want, _ := whole()
+	written := func(m api.Module, want string) {
+		t.Helper()
+		s, e := encode.Module(m)
+		if e != api.OK || s != want {
+			t.Fatalf("P16.1: %q, %d; want %q", short(s), e, short(want))
+		}
+		check(t, s, m)
+	}
+	written(m, want)
+	for _, p := range parts() {
+		m := api.Module{Start: -1}
+		p.fill(&m)
+		if len(m.Funcs) == len(m.Codes) {
+			written(m, begin+sec(p.id, p.content))
+		}
+	}
+	r := numbers(17)
+	for range 3000 {
+		m := r.module()
+		written(m, text(m))
+		// A module that was read of another form is written in the canonical one.
+		back, _ := Module(writer{choose: &r}.module(m))
+		written(back, text(m))
 	}
 }
 

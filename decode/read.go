@@ -6,14 +6,9 @@ import (
 	"pelorus/api"
 	"pelorus/instr"
 	"pelorus/leb"
+	"pelorus/marks"
 	"pelorus/names"
 	"pelorus/vals"
-)
-
-// The bytes ahead of a function's type and of a table's limits.
-const (
-	funcByte  = 0x60
-	tableByte = 0x70
 )
 
 // reader: a text that ends where a section does, and the place in it. What does not stand there as it must is thrown.
@@ -132,7 +127,7 @@ func (r *reader) custom() {
 
 // funcType: a function's type.
 func (r *reader) funcType() api.FuncType {
-	r.must(funcByte)
+	r.must(marks.FuncByte)
 	return api.FuncType{
 		Params:  list(r, api.MaxItems, r.valueType),
 		Results: list(r, api.MaxItems, r.valueType),
@@ -158,7 +153,7 @@ func (r *reader) imported() api.Import {
 
 // table: a table's limits.
 func (r *reader) table() api.Limits {
-	r.must(tableByte)
+	r.must(marks.TableByte)
 	return r.limits()
 }
 
