@@ -6,6 +6,7 @@ import (
 	"pelorus/access"
 	"pelorus/api"
 	"pelorus/apply"
+	"pelorus/vals"
 )
 
 // step: an instruction that opens no frame. What it names is asked for first; then it takes its values, then it gives its own.
@@ -57,7 +58,7 @@ func (w *walk) typeOf(i *api.Instr) api.FuncType {
 	case op <= api.OpMemoryGrow:
 		return w.memoryType(i)
 	case op <= api.OpF64Const:
-		return gives(constType(op))
+		return gives(vals.ConstType(op))
 	}
 	t, _ := apply.Type(i.Op)
 	return t
@@ -135,11 +136,6 @@ func (w *walk) memoryType(i *api.Instr) api.FuncType {
 // isAligned: whether 2^a is no more than size. It is size that is shifted, since 2^a may wrap.
 func isAligned(a int, size int) bool {
 	return size>>a > 0
-}
-
-// constType: the type of a constant. The constants stand in the row of the types, which goes downwards.
-func constType(op int) int {
-	return api.TypeI32 - (op - api.OpI32Const)
 }
 
 // gives: takes nothing, and gives a value.

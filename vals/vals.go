@@ -1,4 +1,4 @@
-// Package vals: which values may be, as chapter 10 says it; what the layers that take values share.
+// Package vals: which values may be, as chapter 10 says it, and the types of constants; what the layers that take values share.
 package vals
 
 import (
@@ -13,6 +13,15 @@ func IsType(t int) bool {
 		return true
 	}
 	return false
+}
+
+// ConstType: the type of a constant, by its operation; TypeNone of an operation that is none. The constants stand in the row of
+// the types, which goes downwards.
+func ConstType(op int) int {
+	if op < api.OpI32Const || op > api.OpF64Const {
+		return api.TypeNone
+	}
+	return api.TypeI32 - (op - api.OpI32Const)
 }
 
 // MayBe: whether a value may be. All that an int may be are bits of 64.

@@ -45,3 +45,20 @@ func TestMayBe(t *testing.T) {
 		}
 	}
 }
+
+func TestConstType(t *testing.T) {
+	want := map[int]int{65: 127, 66: 126, 67: 125, 68: 124}
+	all := []int{math.MinInt, math.MaxInt, 1<<32 + 65, 1<<32 + 68, -65, -68}
+	for op := -300; op <= 300; op++ {
+		all = append(all, op)
+	}
+	for _, op := range all {
+		kind, ok := want[op]
+		if !ok {
+			kind = 64
+		}
+		if got := ConstType(op); got != kind {
+			t.Errorf("chapter 14: ConstType(%d): %d; want %d", op, got, kind)
+		}
+	}
+}
